@@ -88,9 +88,13 @@ func (r *bitReader) all() []int {
 	return bits
 }
 
+func isBit(x int) bool {
+	return x == 0 || x == 1
+}
+
 func areBits(list []int) bool {
 	for _, x := range list {
-		if x != 0 && x != 1 {
+		if !isBit(x) {
 			return false
 		}
 	}
